@@ -392,13 +392,17 @@ func TestAllShortLists(t *testing.T) {
 	}
 }
 
-// longBlocks has many valid blocks of up to MaxStmts statements; the numbers that choose them follow a fixed rule.
-func longBlocks() [][]impl.Stmt {
-	blocks, seed := [][]impl.Stmt{}, uint32(7)
-	next := func(n int) int {
+// chooser returns a function that chooses numbers from 0 to n-1, the same ones for the same seed.
+func chooser(seed uint32) func(n int) int {
+	return func(n int) int {
 		seed = seed*1664525 + 1013904223
 		return int(seed>>16) % n
 	}
+}
+
+// longBlocks has many valid blocks of up to MaxStmts statements; the numbers that choose them follow a fixed rule.
+func longBlocks() [][]impl.Stmt {
+	blocks, next := [][]impl.Stmt{}, chooser(7)
 	for range 3000 {
 		signs, open, size := "", 0, 1+next(24)
 		for len(signs)+open < size {
