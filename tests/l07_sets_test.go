@@ -180,9 +180,12 @@ func variedTasks() []impl.Task {
 type deed struct{ kind, variable, value int }
 
 // deedsOf performs a valid task by the list of chapter 4, each sensor with other values at each reading.
-func deedsOf(task impl.Task, vars []int) []deed {
+func deedsOf(task impl.Task, vars []int) []deed { return laterDeedsOf(task, vars, 0) }
+
+// laterDeedsOf performs the task after as many readings of the sensors as senses tells.
+func laterDeedsOf(task impl.Task, vars []int, senses int) []deed {
 	partner, _ := partners(task.Body)
-	vars, deeds, left, senses := slices.Clone(vars), []deed{}, make([]int, len(task.Body)), 0
+	vars, deeds, left := slices.Clone(vars), []deed{}, make([]int, len(task.Body))
 	value := func(e impl.Expr) int {
 		return wantedValue(e.Op, wantedOperand(vars, e.A), wantedOperand(vars, e.B))
 	}
@@ -221,6 +224,51 @@ func deedsOf(task impl.Task, vars []int) []deed {
 func variedVars() [][]int {
 	return [][]int{
 		distinctVars(), make([]int, 8), {1, 0, 1, 0, 1, 0, 1, 0}, {0, 1, 0, 1, 0, 1, 0, 1}, {0, 0, 1, 1, 2, 2, 3, 3}, {2, 1, 0, -1, -2, 2, 1, 0}, slices.Repeat([]int{1}, 8), {-1, 2, -3, 4, -5, 6, -7, 8},
+	}
+}
+
+// shortLists are all lists of one to five of these words, with and without the shape of a block.
+func shortLists() [][]impl.Stmt {
+	all, lists := [][]impl.Stmt{}, [][]impl.Stmt{nil}
+	for range 5 {
+		longer := [][]impl.Stmt{}
+		for _, list := range lists {
+			for _, word := range []string{"1=", "2=1", "1~", "!1", "?2", "*2", "."} {
+				longer = append(longer, append(slices.Clone(list), stmtOfWord(word)))
+			}
+		}
+		all, lists = append(all, longer...), longer
+	}
+	return all
+}
+
+// changedTasks are varied tasks with one statement less and with one more, which may take the shape of a block from them.
+func changedTasks() []impl.Task {
+	tasks := []impl.Task{}
+	for i, task := range variedTasks()[:900] {
+		k := i % len(task.Body)
+		tasks = append(tasks, impl.Task{Body: slices.Delete(slices.Clone(task.Body), k, k+1), Next: task.Next})
+		tasks = append(tasks, impl.Task{Body: slices.Insert(slices.Clone(task.Body), k, stmtOfWord("1~")), Next: task.Next})
+	}
+	return tasks
+}
+
+// checkBodiesAreKept lets check use bodies with other statements behind them.
+func checkBodiesAreKept(t *testing.T, check func(t *testing.T, task impl.Task)) {
+	t.Helper()
+	lists := [][]impl.Stmt{nil, blockOfWords("3= ? 4="), blockOfWords("3= ."), blockOfWords(strings.Repeat("3= ", 25))}
+	for _, task := range variedTasks()[:300] {
+		lists = append(lists, task.Body)
+	}
+	for _, list := range lists {
+		for _, behind := range []string{"", ".", ". . . .", "? ? ?", "1= 2~ !3 ?4 .", strings.Repeat("5= ", 30)} {
+			whole := append(slices.Clone(list), blockOfWords(behind)...)
+			before := slices.Clone(whole)
+			check(t, impl.Task{Body: whole[:len(list)], Next: exprReading("06")})
+			if !slices.Equal(whole, before) {
+				t.Errorf("%v with %s behind it was changed to %v", list, behind, whole)
+			}
+		}
 	}
 }
 
@@ -358,7 +406,8 @@ func TestSetsOfTheLargestBlock(t *testing.T) {
 	}
 }
 
-func TestSetsOfListsThatAreNoBlocks(t *testing.T) {
+// invalidBodies are no blocks: some have another shape, and others a statement that is not valid.
+func invalidBodies() [][]impl.Stmt {
 	lists := [][]impl.Stmt{
 		blockOfWords("3= ? 4="), blockOfWords("? 3="), blockOfWords("3= ."), blockOfWords(". 3= !4"), blockOfWords("3= . *2 !4"), blockOfWords("? ? ? ? 3= !4 . . . ."), blockOfWords("*1 *1 *1 *1 3= !4 . . . ."),
 		blockOfWords(strings.Repeat("3= ", 25)), blockOfWords("?4 " + strings.Repeat("3~ ", 23) + "."), blockOfWords(strings.Repeat("3= !4 ", 10000)), blockOfWords("3= ? . . ?"), blockOfWords("*2 3= ?5 ."),
@@ -366,26 +415,28 @@ func TestSetsOfListsThatAreNoBlocks(t *testing.T) {
 	for _, signs := range badSigns() {
 		lists = append(lists, blockOf(signs))
 	}
-	for _, list := range lists {
-		for _, next := range append(invalidExprs()[:40], exprReading(""), exprReading("7"), exprReading("24")) {
-			checkSets(t, impl.Task{Body: list, Next: next}, nil, nil, nil)
-		}
-	}
-}
-
-func TestSetsOfBlocksWithOneInvalidStatement(t *testing.T) {
 	for _, bad := range invalidStmts() {
+		lists = append(lists, []impl.Stmt{bad})
 		for _, words := range []string{"3= !4", "?4 3= .", "*2 3~ ?5 !3 . . 0="} {
 			for i, s := range blockOfWords(words) {
 				// In place of a statement of its own kind, the list has the shape of a block; elsewhere it may have none.
 				if bad.Kind == s.Kind || s.Kind <= impl.StSend {
-					task := taskOfWords(words, "6")
-					task.Body[i] = bad
-					checkSets(t, task, nil, nil, nil)
+					list := blockOfWords(words)
+					list[i] = bad
+					lists = append(lists, list)
 				}
 			}
 		}
-		checkSets(t, impl.Task{Body: []impl.Stmt{bad}, Next: exprReading("6")}, nil, nil, nil)
+	}
+	return lists
+}
+
+func TestSetsOfListsThatAreNoBlocks(t *testing.T) {
+	nexts := append(invalidExprs()[:5], exprReading(""), exprReading("7"), exprReading("24"))
+	for _, list := range invalidBodies() {
+		for _, next := range nexts {
+			checkSets(t, impl.Task{Body: list, Next: next}, nil, nil, nil)
+		}
 	}
 }
 
@@ -400,31 +451,16 @@ func TestSetsOfAnInvalidNext(t *testing.T) {
 	}
 }
 
-// All short lists of these words, with and without the shape of a block.
 func TestSetsOfAllShortLists(t *testing.T) {
-	lists := [][]impl.Stmt{nil}
-	for range 5 {
-		longer := [][]impl.Stmt{}
-		for _, list := range lists {
-			for _, word := range []string{"1=", "2=1", "1~", "!1", "?2", "*2", "."} {
-				longer = append(longer, append(slices.Clone(list), stmtOfWord(word)))
-			}
-		}
-		for _, list := range longer {
-			checkTaskSets(t, impl.Task{Body: list, Next: exprReading("")})
-			checkTaskSets(t, impl.Task{Body: list, Next: exprReading("1")})
-		}
-		lists = longer
+	for _, list := range shortLists() {
+		checkTaskSets(t, impl.Task{Body: list, Next: exprReading("")})
+		checkTaskSets(t, impl.Task{Body: list, Next: exprReading("1")})
 	}
 }
 
 func TestSetsOfLongBlocks(t *testing.T) {
-	for i, task := range variedTasks() {
+	for _, task := range append(variedTasks(), changedTasks()...) {
 		checkTaskSets(t, task)
-		if k := i % len(task.Body); i < 900 {
-			checkTaskSets(t, impl.Task{Body: slices.Delete(slices.Clone(task.Body), k, k+1), Next: task.Next})
-			checkTaskSets(t, impl.Task{Body: slices.Insert(slices.Clone(task.Body), k, stmtOfWord("1~")), Next: task.Next})
-		}
 	}
 }
 
@@ -580,19 +616,4 @@ func TestSetsAreAscendingAndNewMemory(t *testing.T) {
 	}
 }
 
-func TestSetsDoNotChangeTheBlock(t *testing.T) {
-	lists := [][]impl.Stmt{nil, blockOfWords("3= ? 4="), blockOfWords("3= ."), blockOfWords(strings.Repeat("3= ", 25))}
-	for _, task := range variedTasks()[:300] {
-		lists = append(lists, task.Body)
-	}
-	for _, list := range lists {
-		for _, behind := range []string{"", ".", ". . . .", "? ? ?", "1= 2~ !3 ?4 .", strings.Repeat("5= ", 30)} {
-			whole := append(slices.Clone(list), blockOfWords(behind)...)
-			before := slices.Clone(whole)
-			checkTaskSets(t, impl.Task{Body: whole[:len(list)], Next: exprReading("06")})
-			if !slices.Equal(whole, before) {
-				t.Errorf("%v with %s behind it was changed to %v", list, behind, whole)
-			}
-		}
-	}
-}
+func TestSetsDoNotChangeTheBlock(t *testing.T) { checkBodiesAreKept(t, checkTaskSets) }
