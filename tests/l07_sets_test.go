@@ -184,7 +184,13 @@ func deedsOf(task impl.Task, vars []int) []deed { return laterDeedsOf(task, vars
 
 // laterDeedsOf performs the task after as many readings of the sensors as senses tells.
 func laterDeedsOf(task impl.Task, vars []int, senses int) []deed {
+	return sensedDeedsOf(task, vars, func(sensor, n int) int { return (senses + n + 1) * 7 % 5 * (sensor + 1) })
+}
+
+// sensedDeedsOf lets reading tell what a sensor shows, where n is the number of sensor readings ahead of this one.
+func sensedDeedsOf(task impl.Task, vars []int, reading func(sensor, n int) int) []deed {
 	partner, _ := partners(task.Body)
+	senses := 0
 	vars, deeds, left := slices.Clone(vars), []deed{}, make([]int, len(task.Body))
 	value := func(e impl.Expr) int {
 		return wantedValue(e.Op, wantedOperand(vars, e.A), wantedOperand(vars, e.B))
@@ -196,8 +202,8 @@ func laterDeedsOf(task impl.Task, vars []int, senses int) []deed {
 			vars[s.Var] = value(s.E)
 			deeds = append(deeds, deed{1, s.Var, vars[s.Var]})
 		case 2:
+			vars[s.Var] = reading(s.N, senses)
 			senses++
-			vars[s.Var] = senses * 7 % 5 * (s.N + 1)
 			deeds = append(deeds, deed{2, s.Var, vars[s.Var]})
 		case 3:
 			deeds = append(deeds, deed{3, 0, value(s.E)})
