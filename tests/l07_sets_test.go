@@ -176,7 +176,7 @@ func variedTasks() []impl.Task {
 	return tasks
 }
 
-// A deed is what a statement of the given kind does, or what Next yields; a condition counts with its value.
+// A deed is what a statement of the given kind does, or what Next yields; a condition counts with its value, and a loop with its times.
 type deed struct{ kind, variable, value int }
 
 // deedsOf performs a valid task by the list of chapter 4, each sensor with other values at each reading.
@@ -213,6 +213,7 @@ func sensedDeedsOf(task impl.Task, vars []int, reading func(sensor, n int) int) 
 				at = partner[at]
 			}
 		case 5:
+			deeds = append(deeds, deed{5, 0, s.N})
 			left[at] = s.N
 		case 6:
 			if start := partner[at]; task.Body[start].Kind == 5 {
