@@ -728,28 +728,14 @@ func TestTaskResultsAreNewMemory(t *testing.T) {
 func TestTaskArgumentsAreKept(t *testing.T) {
 	programs := append(append(plainPrograms(), variedPrograms()[:200]...), invalidPrograms()[:100]...)
 	for i, p := range programs {
-		whole := cloneProgram(p)
-		for k, task := range whole.Tasks {
-			whole.Tasks[k].Body = append(task.Body, blockOfWords("3=3 . ?4 5~")...)[:len(task.Body)]
-		}
-		whole.Tasks = append(whole.Tasks, taskLogging(8), taskOf("?"))
-		before := cloneProgram(whole)
-		vars, used, readings := append(slices.Clone(variedVars()[i%8]), 41, 42), append(slices.Clone(someUsed()[i%6]), 43, 44), append(slices.Clone(someReadings()[i%9]), 45, 46)
-		keptVars, keptUsed, keptReadings := slices.Clone(vars), slices.Clone(used), slices.Clone(readings)
-		given := impl.Program{Tasks: whole.Tasks[:len(p.Tasks)]}
+		given, vars, used, readings := programWithRoom(p), withRoom(variedVars()[i%8]), withRoom(someUsed()[i%6]), withRoom(someReadings()[i%9])
 		for task := range given.Tasks {
-			impl.TaskEffect(given, task, vars[:8], used[:len(used)-2])
-			impl.SensesOf(given, task, vars[:8], readings[:len(readings)-2], 3)
-			impl.ReadSensor(readings[:len(readings)-2], task, i)
+			impl.TaskEffect(given, task, vars, used)
+			impl.SensesOf(given, task, vars, readings, 3)
+			impl.ReadSensor(readings, task, i)
 		}
-		if !sameProgram(whole, before) || !slices.Equal(vars, keptVars) || !slices.Equal(used, keptUsed) || !slices.Equal(readings, keptReadings) {
-			t.Errorf("%v or %v, %v or %v was changed", before, keptVars, keptUsed, keptReadings)
-		}
-		for k, task := range given.Tasks {
-			behind := task.Body[:len(task.Body)+4][len(task.Body):]
-			if !slices.Equal(behind, blockOfWords("3=3 . ?4 5~")) {
-				t.Errorf("behind the task %d of %v, there is %v", k, before, behind)
-			}
+		if !isProgramKept(given, p) || !isKept(vars, variedVars()[i%8]) || !isKept(used, someUsed()[i%6]) || !isKept(readings, someReadings()[i%9]) {
+			t.Errorf("%v or %v, %v or %v was changed", given, vars, used, readings)
 		}
 	}
 }

@@ -588,6 +588,30 @@ func isKept(list, before []int) bool {
 	return slices.Equal(list[:len(list)+2], append(slices.Clone(before), 43, 44))
 }
 
+const wordsBehindBodies = "3=3 . ?4 5~"
+
+func tasksBehindPrograms() []impl.Task { return []impl.Task{taskLogging(8), taskOf("?")} }
+
+// programWithRoom has other statements behind each body, and other tasks behind its own ones.
+func programWithRoom(p impl.Program) impl.Program {
+	p = cloneProgram(p)
+	for k, task := range p.Tasks {
+		p.Tasks[k].Body = append(task.Body, blockOfWords(wordsBehindBodies)...)[:len(task.Body)]
+	}
+	return impl.Program{Tasks: append(p.Tasks, tasksBehindPrograms()...)[:len(p.Tasks)]}
+}
+
+func isProgramKept(p, before impl.Program) bool {
+	for _, task := range p.Tasks {
+		behind := task.Body[len(task.Body) : len(task.Body)+4]
+		if !slices.Equal(behind, blockOfWords(wordsBehindBodies)) {
+			return false
+		}
+	}
+	whole := slices.Concat(before.Tasks, tasksBehindPrograms())
+	return sameProgram(impl.Program{Tasks: p.Tasks[:len(p.Tasks)+2]}, impl.Program{Tasks: whole})
+}
+
 // Neither the arguments nor what lies behind them is written.
 func TestRunArgumentsAreKept(t *testing.T) {
 	runs := variedRuns()
@@ -595,31 +619,19 @@ func TestRunArgumentsAreKept(t *testing.T) {
 		runs = append(runs, run{p, i % 2, distinctVars(), usedByTasks(i%4, i)})
 	}
 	for _, r := range runs {
-		whole := cloneProgram(r.program)
-		for k, task := range whole.Tasks {
-			whole.Tasks[k].Body = append(task.Body, blockOfWords("3=3 . ?4 5~")...)[:len(task.Body)]
-		}
-		whole.Tasks = append(whole.Tasks, taskLogging(8), taskOf("?"))
-		before, vars, used := cloneProgram(whole), withRoom(r.vars), [][]int{}
+		given, vars, used := programWithRoom(r.program), withRoom(r.vars), [][]int{}
 		for _, values := range r.used {
 			used = append(used, withRoom(values))
 		}
 		used = append(used, []int{45}, []int{46})
-		given, count := impl.Program{Tasks: whole.Tasks[:len(r.program.Tasks)]}, len(r.used)
-		impl.RefRun(given, r.task, vars, used[:count])
-		impl.RefTasks(given, r.task, vars, used[:count])
-		if !sameProgram(whole, before) || !isKept(vars, r.vars) || !sameUsed(used, append(slices.Clone(r.used), []int{45}, []int{46})) {
-			t.Errorf("a run changes %v, %v or %v", whole, vars, used)
+		impl.RefRun(given, r.task, vars, used[:len(r.used)])
+		impl.RefTasks(given, r.task, vars, used[:len(r.used)])
+		if !isProgramKept(given, r.program) || !isKept(vars, r.vars) || !sameUsed(used, append(slices.Clone(r.used), []int{45}, []int{46})) {
+			t.Errorf("a run changes %v, %v or %v", given, vars, used)
 		}
 		for k := range r.used {
 			if !isKept(used[k], r.used[k]) {
 				t.Errorf("a run changes what is behind %v: %v", r.used[k], used[k][:len(used[k])+2])
-			}
-		}
-		for k, task := range given.Tasks {
-			behind := task.Body[:len(task.Body)+4][len(task.Body):]
-			if !slices.Equal(behind, blockOfWords("3=3 . ?4 5~")) {
-				t.Errorf("behind the task %d of %v, there is %v", k, before, behind)
 			}
 		}
 	}

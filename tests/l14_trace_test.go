@@ -826,22 +826,10 @@ func TestTraceArgumentsAreKept(t *testing.T) {
 		list = append(list, tracedTask{p, cleanMemory(distinctVars(), i%2, i%25), someReadings()[i%9], i})
 	}
 	for _, c := range list {
-		whole := cloneProgram(c.program)
-		for k, task := range whole.Tasks {
-			whole.Tasks[k].Body = append(task.Body, blockOfWords("3=3 . ?4 5~")...)[:len(task.Body)]
-		}
-		whole.Tasks = append(whole.Tasks, taskLogging(8), taskOf("?"))
-		before, mem, readings := cloneProgram(whole), withRoom(c.mem), withRoom(c.readings)
-		given := impl.Program{Tasks: whole.Tasks[:len(c.program.Tasks)]}
+		given, mem, readings := programWithRoom(c.program), withRoom(c.mem), withRoom(c.readings)
 		impl.TraceOf(given, mem, readings, c.at)
-		if !sameProgram(whole, before) || !isKept(mem, c.mem) || !isKept(readings, c.readings) {
-			t.Errorf("a trace changes %v, %v or %v", whole, mem, readings)
-		}
-		for k, task := range given.Tasks {
-			behind := task.Body[:len(task.Body)+4][len(task.Body):]
-			if !slices.Equal(behind, blockOfWords("3=3 . ?4 5~")) {
-				t.Errorf("behind the task %d of %v, there is %v", k, before, behind)
-			}
+		if !isProgramKept(given, c.program) || !isKept(mem, c.mem) || !isKept(readings, c.readings) {
+			t.Errorf("a trace changes %v, %v or %v", given, mem, readings)
 		}
 	}
 }
